@@ -44,6 +44,11 @@ func ImageValid(a Image) bool {
 	return true
 }
 
+// imageCopy returns an image that is equal to a given one and shares no memory with it.
+func imageCopy(a Image) Image {
+	return Image{W: a.W, Rows: slices.Clone(a.Rows)}
+}
+
 // ImageHas reports whether an image is valid and has a cell (i, j) that is set.
 func ImageHas(a Image, i int, j int) bool {
 	return ImageValid(a) && cellInside(a, i, j) && a.Rows[i]>>j&1 == 1
@@ -55,7 +60,7 @@ func ImagePut(a Image, i int, j int, set bool) (Image, bool) {
 	if !ImageValid(a) || !cellInside(a, i, j) {
 		return Image{}, false
 	}
-	b := Image{W: a.W, Rows: slices.Clone(a.Rows)}
+	b := imageCopy(a)
 	if set {
 		b.Rows[i] |= 1 << j
 	} else {

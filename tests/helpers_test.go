@@ -90,6 +90,15 @@ func someOf(h int, w int) []impl.Image {
 	return list
 }
 
+// numbersFrom returns a function that returns numbers without order that are less than a given one. They are the same for the same seed.
+func numbersFrom(seed int) func(many int) int {
+	state := seed
+	return func(many int) int {
+		state = (state*1103515245 + 12345) % (1 << 31)
+		return state / 4096 % many
+	}
+}
+
 // goodImages returns valid images of all heights and widths; of those with at most 9 cells, all.
 func goodImages() []impl.Image {
 	var list []impl.Image

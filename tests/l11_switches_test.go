@@ -140,13 +140,17 @@ func lists(t *testing.T, a impl.Image, want []impl.Switch) {
 // switchImages returns the images of goodImages, all of 2 rows of 5 and 5 rows of 2, of 3 rows of 4 and 4 rows of 3,
 // and more of SideMax rows and columns.
 func switchImages() []impl.Image {
-	list := slices.Concat(goodImages(), allOf(2, 5), allOf(5, 2), allOf(3, 4), allOf(4, 3))
-	state := 5
+	return slices.Concat(goodImages(), allOf(2, 5), allOf(5, 2), allOf(3, 4), allOf(4, 3), greatImages())
+}
+
+// greatImages returns images of SideMax rows and columns without order.
+func greatImages() []impl.Image {
+	var list []impl.Image
+	number := numbersFrom(5)
 	for range 40 {
 		a := impl.Image{W: impl.SideMax}
 		for range impl.SideMax {
-			state = (state*1103515245 + 12345) % (1 << 31)
-			a.Rows = append(a.Rows, state/4096%64)
+			a.Rows = append(a.Rows, number(64))
 		}
 		list = append(list, a)
 	}
