@@ -20,6 +20,11 @@ func rowFull(w int) int {
 	return 1<<w - 1
 }
 
+// rowMany returns how many cells of a row are set.
+func rowMany(row int) int {
+	return bits.OnesCount64(uint64(row))
+}
+
 // cellInside reports whether a valid image has a cell (i, j).
 func cellInside(a Image, i int, j int) bool {
 	return i >= 0 && i < len(a.Rows) && j >= 0 && j < a.W
@@ -76,7 +81,7 @@ func ImageMany(a Image) int {
 	}
 	many := 0
 	for _, row := range a.Rows {
-		many += bits.OnesCount64(uint64(row))
+		many += rowMany(row)
 	}
 	return many
 }
